@@ -368,19 +368,28 @@ func TestLeftsAndEarlierCounts(t *testing.T) {
 	}
 }
 
+// alikeSigns returns the opposite signs, and the signs with renamed elements together with their names.
+func alikeSigns(t *testing.T, s impl.Signs) (opposite impl.Signs, renamed impl.Signs, names []int) {
+	t.Helper()
+	opposite, okOpposite := impl.OppositeSigns(s)
+	for i := range s.N {
+		names = append(names, (i+2)%s.N)
+	}
+	renamed, okRenamed := impl.RenameSigns(s, names)
+	if !okOpposite || !okRenamed {
+		t.Fatalf("%v: OppositeSigns %t, RenameSigns %t", s, okOpposite, okRenamed)
+	}
+	return opposite, renamed, names
+}
+
 // TestLeftsOfAlikeSigns holds because opposite signs exchange left and right, and renamed elements stay where they are.
 func TestLeftsOfAlikeSigns(t *testing.T) {
 	for _, s := range orderSigns() {
-		opposite, okOpposite := impl.OppositeSigns(s)
-		var names []int
-		for i := range s.N {
-			names = append(names, (i+2)%s.N)
-		}
-		renamed, okRenamed := impl.RenameSigns(s, names)
+		opposite, renamed, names := alikeSigns(t, s)
 		table, mirrored, moved := impl.LeftTable(s), impl.LeftTable(opposite), impl.LeftTable(renamed)
 		for number := range s.N * s.N {
 			i, j := number/s.N, number%s.N
-			if !okOpposite || !okRenamed || table[i][j] != mirrored[j][i] || table[i][j] != moved[names[i]][names[j]] {
+			if table[i][j] != mirrored[j][i] || table[i][j] != moved[names[i]][names[j]] {
 				t.Errorf("LeftTable(%v) = %v, of the opposite %v, renamed %v", s, table, mirrored, moved)
 			}
 		}
@@ -423,10 +432,13 @@ func TestLeftsOfNoElements(t *testing.T) {
 	}
 }
 
+// moreDisorderSigns has further signs, among them some whose N is a length that no list can have, or the length of an empty one.
+func moreDisorderSigns() []impl.Signs {
+	return append(disorderSigns(), sgn(-1, ""), sgn(0, ""), sgn(1, ""), sgn(2, "+"), sgn(-64, ""), sgn(64, ""), sgn(math.MinInt, ""), sgn(math.MaxInt, "+"), sgn(8, strings.Repeat("+", 56)))
+}
+
 func TestLeftsOfNoOrderSigns(t *testing.T) {
-	// N of some of these is a length that no list can have, or the length of an empty one.
-	list := append(disorderSigns(), sgn(-1, ""), sgn(0, ""), sgn(1, ""), sgn(2, "+"), sgn(-64, ""), sgn(64, ""), sgn(math.MinInt, ""), sgn(math.MaxInt, "+"), sgn(8, strings.Repeat("+", 56)))
-	for _, s := range list {
+	for _, s := range moreDisorderSigns() {
 		for number := range 25 {
 			if i, j := number/5-1, number%5-1; impl.LeftCount(s, i, j) != -1 {
 				t.Errorf("LeftCount(%v, %d, %d) = %d", clip(s), i, j, impl.LeftCount(s, i, j))

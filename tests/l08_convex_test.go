@@ -422,15 +422,7 @@ func TestCapsOfPoints(t *testing.T) {
 // TestConvexSetsOfAlikeSigns holds because opposite signs exchange caps and cups alone, and renamed elements stay where they are.
 func TestConvexSetsOfAlikeSigns(t *testing.T) {
 	for _, s := range orderSigns() {
-		opposite, okOpposite := impl.OppositeSigns(s)
-		var names []int
-		for i := range s.N {
-			names = append(names, (i+2)%s.N)
-		}
-		renamed, okRenamed := impl.RenameSigns(s, names)
-		if !okOpposite || !okRenamed {
-			t.Fatalf("%v: OppositeSigns %t, RenameSigns %t", s, okOpposite, okRenamed)
-		}
+		opposite, renamed, names := alikeSigns(t, s)
 		if !slices.Equal(impl.CapOf(s), impl.CupOf(opposite)) || !slices.Equal(impl.CupOf(s), impl.CapOf(opposite)) {
 			t.Errorf("%v: CapOf %v, CupOf %v, of the opposite %v, %v", s, impl.CapOf(s), impl.CupOf(s), impl.CapOf(opposite), impl.CupOf(opposite))
 		}
@@ -474,9 +466,7 @@ func TestConvexSetsOfFarNumbers(t *testing.T) {
 }
 
 func TestConvexSetsOfNoOrderSigns(t *testing.T) {
-	// N of some of these is a length that no list can have, or the length of an empty one.
-	list := append(disorderSigns(), sgn(-1, ""), sgn(0, ""), sgn(1, ""), sgn(2, "+"), sgn(-64, ""), sgn(64, ""), sgn(math.MinInt, ""), sgn(math.MaxInt, "+"), sgn(8, strings.Repeat("+", 56)))
-	for _, s := range list {
+	for _, s := range moreDisorderSigns() {
 		for _, set := range []int{-1, 0, 1, 3, 7, 11, 14, 15, 31, 127} {
 			if impl.IsConvexSet(s, set) {
 				t.Errorf("IsConvexSet(%v, %d) = true", clip(s), set)
