@@ -469,18 +469,21 @@ func TestEdgesOfPoints(t *testing.T) {
 	}
 }
 
+// renamedEdges returns the set of the edges between the names of the elements.
+func renamedEdges(names []int, edges int) int {
+	n, set := len(names), 0
+	for _, k := range elementsOf(edgeCounts[n], edges) {
+		i, j := impl.EdgeAt(n, k)
+		set += setOf(impl.EdgeIndex(n, names[i], names[j]))
+	}
+	return set
+}
+
 // TestEdgesOfAlikeSigns holds because opposite signs leave all crossings, and renamed elements take their edges along.
 func TestEdgesOfAlikeSigns(t *testing.T) {
 	for at, s := range orderSigns() {
 		opposite, renamed, names := alikeSigns(t, s)
-		moved := func(edges int) int {
-			set := 0
-			for _, k := range elementsOf(edgeCounts[s.N], edges) {
-				i, j := impl.EdgeAt(s.N, k)
-				set += setOf(impl.EdgeIndex(s.N, names[i], names[j]))
-			}
-			return set
-		}
+		moved := func(edges int) int { return renamedEdges(names, edges) }
 		hull, free := impl.HullEdges(s), impl.FreeEdges(s)
 		if impl.HullEdges(opposite) != hull || impl.FreeEdges(opposite) != free || impl.HullEdges(renamed) != moved(hull) || impl.FreeEdges(renamed) != moved(free) {
 			t.Errorf("%v: HullEdges %d, FreeEdges %d, of the opposite %d, %d, renamed %d, %d", s, hull, free, impl.HullEdges(opposite), impl.FreeEdges(opposite), impl.HullEdges(renamed), impl.FreeEdges(renamed))
